@@ -118,23 +118,19 @@ func (r *Reader) fail(e api.Errno) {
 	panic(fault{r.of})
 }
 
-// number is the number with which bytes begin, and how many of them it has.
+// number is the number with which bytes begin, and how many of them it has. They are asked one by one, so that what may not be is told ahead of the bytes' end behind it.
 func number(s string) (n uint64, size int, e api.Errno) {
-	last := 0
-	for last < len(s) && s[last] >= more {
-		last++
+	for i := range min(len(s), mostNum) {
+		b := s[i]
+		tooMuch := i == mostNum-1 && b > 1 // nine bytes have 63 bits: one is left, and no byte may follow
+		notShortest := i > 0 && b == 0
+		if tooMuch || notShortest {
+			return 0, 0, api.ErrForm
+		}
+		n |= uint64(b%more) << (i * bitsEach)
+		if b < more {
+			return n, i + 1, api.OK
+		}
 	}
-	if last == len(s) {
-		return 0, 0, api.ErrShort
-	}
-	tooLong := last >= mostNum
-	tooGreat := last == mostNum-1 && s[last] > 1 // nine bytes have 63 bits: one is left
-	notShortest := last > 0 && s[last] == 0
-	if tooLong || tooGreat || notShortest {
-		return 0, 0, api.ErrForm
-	}
-	for i := last; i >= 0; i-- {
-		n = n<<bitsEach | uint64(s[i]%more)
-	}
-	return n, last + 1, api.OK
+	return 0, 0, api.ErrShort
 }

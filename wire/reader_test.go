@@ -95,8 +95,12 @@ func TestNumTellsWhatCantBe(t *testing.T) {
 		{"\x80", most, api.ErrShort},
 		{"\xff\xff", 0, api.ErrShort},
 		{nine, most, api.ErrShort},
-		{ten, most, api.ErrShort}, // it has no end: what is named first
-		{ten + "\xff", 0, api.ErrShort},
+		{ten, most, api.ErrForm}, // the tenth is not the last one: more than ten, ahead of the end
+		{ten + "\x80", most, api.ErrForm},
+		{ten + "\xff", 0, api.ErrForm},
+		{ten + ten, most, api.ErrForm},
+		{nine + "\x81", most, api.ErrForm},
+		{nine + "\x82", most, api.ErrForm},
 		{ten + "\x00", most, api.ErrForm}, // eleven bytes
 		{ten + "\x01", most, api.ErrForm},
 		{ten + ten + "\x01", most, api.ErrForm},
@@ -118,6 +122,32 @@ func TestNumTellsWhatCantBe(t *testing.T) {
 		n, e := readNum(x.s, x.top)
 		if e != x.want || n != 0 && e != api.ErrExtra {
 			t.Errorf("%x, at most %d, is read as %d, %d, not %d", x.s, x.top, n, e, x.want)
+		}
+	}
+}
+
+func TestNumAsksItsBytesInTheirOrder(t *testing.T) {
+	const nine = "\x80\x80\x80\x80\x80\x80\x80\x80\x80"
+	for size := range len(nine) + 1 {
+		for _, first := range []byte{0x80, 0xff} {
+			s := strings.Repeat(string([]byte{first}), size)
+			if _, e := readNum(s, most); e != api.ErrShort {
+				t.Errorf("%x is read as %d, not %d", s, e, api.ErrShort)
+			}
+		}
+	}
+	for tenth := range 256 {
+		for behind := range 4 {
+			s := nine + string([]byte{byte(tenth)}) + strings.Repeat("\x80", behind)
+			want := api.ErrForm
+			if tenth == 1 && behind == 0 {
+				want = api.OK
+			} else if tenth == 1 {
+				want = api.ErrExtra
+			}
+			if _, e := readNum(s, most); e != want {
+				t.Errorf("%x is read as %d, not %d", s, e, want)
+			}
 		}
 	}
 }
@@ -146,6 +176,10 @@ func TestTextTellsWhatCantBe(t *testing.T) {
 		{"\x02a", 2, "", api.ErrShort},
 		{"\x80", 2, "", api.ErrShort},
 		{"\x82\x00ab", 2, "", api.ErrForm},
+		{strings.Repeat("\x80", 9), 2, "", api.ErrShort},
+		{strings.Repeat("\x80", 10), 2, "", api.ErrForm}, // a length of more than ten bytes, ahead of their end
+		{strings.Repeat("\x80", 12), -1, "", api.ErrForm},
+		{strings.Repeat("\x80", 9) + "\x82", 2, "", api.ErrForm},
 		{"\x02abc", 2, "ab", api.ErrExtra},
 	} {
 		var text string
